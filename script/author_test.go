@@ -156,7 +156,7 @@ func (u author) written(l []api.Step) (text, out string) {
 	return text, out
 }
 
-// pieces: what stands in scripts, right and wrong.
+// piece: what stands in scripts, right and wrong.
 func (u author) piece() string {
 	switch u.Intn(4) {
 	case 0:

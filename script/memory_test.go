@@ -10,7 +10,7 @@ import (
 	"twine/api"
 )
 
-// spoil writes over all that hangs on a step, the spare room too, and answers the step as it was.
+// spoil writes over all that hangs on a step, the spare room too.
 func spoil(s api.Step) {
 	data := s.Edit.Data[:cap(s.Edit.Data)]
 	for i := range data {

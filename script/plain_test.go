@@ -289,7 +289,7 @@ type plainBook struct {
 	times       int
 }
 
-// line reads a line; first is where its first word stands.
+// line reads a line, of which something is left.
 func (b *plainBook) line(r *plainReader) {
 	first := r.items[0].at
 	word := r.take().text
